@@ -327,10 +327,10 @@ func TestAnswersAreNewMemory(t *testing.T) {
 	}
 	for i := range l {
 		x := &l[i].Inode
-		x.Entries = append(x.Entries, api.Entry{Name: "z", No: 99})
-		x.Runs = append(x.Runs, api.Run{From: 9, At: 9, Count: 9})
 		clear(x.Entries)
 		clear(x.Runs)
+		x.Entries = append(x.Entries, api.Entry{Name: "z", No: 99})
+		x.Runs = append(x.Runs, api.Run{From: 9, At: 9, Count: 9})
 		rest := deeds()[i+1:]
 		if !sameDeeds(l[i+1:], rest) {
 			t.Fatalf("deed %d shares memory with one behind it", i)
